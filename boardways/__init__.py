@@ -1,0 +1,1 @@
+"""Queens and knights: two old puzzles on boards."""

@@ -1,0 +1,31 @@
+"""The calls: each answers a new list of one whole number."""
+
+OUT_OF_RANGE = -2
+MOST_QUEENS = 64
+
+
+def queens(n, ring):
+    """Whether n queens may stand on n rows and n columns (on a ring, if ring isn't 0): 1 or 0; or -2."""
+    if n < 1 or n > MOST_QUEENS:
+        return [OUT_OF_RANGE]
+    if ring != 0:
+        found = queens_fit_ring(n)
+    else:
+        found = queens_fit_board(n)
+    return [1 if found else 0]
+
+
+def queens_fit_board(n):
+    # Two and three are too narrow; from four on there is a way for every size, and one queen has none to see.
+    return n != 2 and n != 3
+
+
+def queens_fit_ring(n):
+    # Neither 2 nor 3 divides n: then row i with column 2 * i (counted on behind the side) is a way.
+    # Else there is none. With x[i] the column of row i, the rests by n of x[i], of x[i] - i and of
+    # x[i] + i would each be all of 0 .. n - 1.
+    # 2 divides n: the sum of x[i] - i leaves 0, yet 0 + .. + (n - 1) leaves n // 2.
+    # 3 divides n: with S the sum of the squares of 0 .. n - 1, the squares of x[i] - i and of x[i] + i
+    # add up to 2 * S, and written out to 4 * S; so n would divide 2 * S = n * (n - 1) * (2 * n - 1) // 3,
+    # but 3 divides neither n - 1 nor 2 * n - 1.
+    return n % 2 != 0 and n % 3 != 0
