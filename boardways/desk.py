@@ -2,6 +2,7 @@
 
 OUT_OF_RANGE = -2
 MOST_QUEENS = 64
+MOST_COUNTED = 12
 
 
 def queens(n, ring):
@@ -29,3 +30,28 @@ def queens_fit_ring(n):
     # add up to 2 * S, and written out to 4 * S; so n would divide 2 * S = n * (n - 1) * (2 * n - 1) // 3,
     # but 3 divides neither n - 1 nor 2 * n - 1.
     return n % 2 != 0 and n % 3 != 0
+
+
+def count(n, ring):
+    """In how many ways n queens stand on n rows and n columns (on a ring, if ring isn't 0); or -2."""
+    if n < 1 or n > MOST_COUNTED:
+        return [OUT_OF_RANGE]
+    # Cells of one slanted line are those whose x - row (or x + row) leaves the same by this number. On a ring
+    # that is n, as the lines go on behind a side; on a board 2 * n - 1, so that no two lines fall together.
+    slants = n if ring != 0 else 2 * n - 1
+    return [ways_from_row(0, n, slants, 0, 0, 0)]
+
+
+def ways_from_row(row, n, slants, columns, falling, rising):
+    """In how many ways queens may be set in this row and all below; a bit is 1 where a line is taken already."""
+    # Nested n + 1 calls deep, so 13 at most.
+    if row == n:
+        return 1
+    ways = 0
+    for x in range(n):
+        column = 1 << x
+        fall = 1 << ((x - row) % slants)
+        rise = 1 << ((x + row) % slants)
+        if (columns & column) == 0 and (falling & fall) == 0 and (rising & rise) == 0:
+            ways += ways_from_row(row + 1, n, slants, columns | column, falling | fall, rising | rise)
+    return ways
