@@ -3,6 +3,7 @@
 OUT_OF_RANGE = -2
 MOST_QUEENS = 64
 MOST_COUNTED = 12
+LONGEST_SIDE = 32
 
 
 def queens(n, ring):
@@ -55,3 +56,43 @@ def ways_from_row(row, n, slants, columns, falling, rising):
         if (columns & column) == 0 and (falling & fall) == 0 and (rising & rise) == 0:
             ways += ways_from_row(row + 1, n, slants, columns | column, falling | fall, rising | rise)
     return ways
+
+
+def tour(m, n, the_round):
+    """Whether a knight has a way over m rows and n columns (a way round, if the_round isn't 0): 1 or 0; or -2."""
+    if m < 1 or m > LONGEST_SIDE or n < 1 or n > LONGEST_SIDE:
+        return [OUT_OF_RANGE]
+    # If rows and columns change places, moves are still moves: it matters only which sides there are.
+    shorter = min(m, n)
+    longer = max(m, n)
+    if the_round != 0:
+        found = knight_has_way_round(shorter, longer)
+    else:
+        found = knight_has_way(shorter, longer)
+    return [1 if found else 0]
+
+
+def knight_has_way(shorter, longer):
+    # On one row there is no move; on two every move goes on by two columns, so none leads from an even column to
+    # an odd one. One cell alone is a way without a move.
+    if shorter < 3:
+        return longer == 1
+    # From three rows on there is a way, but for 3 by 3, 3 by 5, 3 by 6 and 4 by 4: the tests find one for every
+    # other board up to LONGEST_SIDE, and none for these.
+    if shorter == 3:
+        return longer == 4 or longer > 6
+    return longer > 4
+
+
+def knight_has_way_round(shorter, longer):
+    # A way round has as many moves as cells, with the one to its first cell. Each move changes whether
+    # row + column is even, so an odd number of them never leads home.
+    if shorter * longer % 2 != 0:
+        return False
+    # Of boards with three rows those of 4, 6 and 8 columns have none: the tests try them to the end.
+    if shorter == 3:
+        return longer > 8
+    # One row or two: see above. Four rows: from the outer two every move leads to the inner two, which have as
+    # many cells, so a way round takes outer and inner cells by turns. By turns, too, it takes cells with an even
+    # and with an odd row + column: so all outer ones would be even, or all odd, and they are not.
+    return shorter > 4
